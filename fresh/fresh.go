@@ -1,0 +1,14 @@
+// Package fresh makes answers new memory: copies that share none with what was handed in. A list that is nil stays so.
+package fresh
+
+import (
+	"slices"
+
+	"paydesk/api"
+)
+
+// Reader of frames.
+func Reader(r api.Reader) api.Reader {
+	r.Rest = slices.Clone(r.Rest)
+	return r
+}
