@@ -12,3 +12,12 @@ func Reader(r api.Reader) api.Reader {
 	r.Rest = slices.Clone(r.Rest)
 	return r
 }
+
+// Wheel of timers.
+func Wheel(w api.Wheel) api.Wheel {
+	for i := range api.Slots {
+		w.Inner[i] = slices.Clone(w.Inner[i])
+		w.Outer[i] = slices.Clone(w.Outer[i])
+	}
+	return w
+}

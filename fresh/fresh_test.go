@@ -4,7 +4,6 @@ import (
 	"reflect"
 	"testing"
 
-	"paydesk/api"
 	"paydesk/fresh"
 )
 
@@ -84,5 +83,6 @@ func check[T any](t *testing.T, name string, f func(T) T) {
 }
 
 func TestCopiesShareNothing(t *testing.T) {
-	check(t, "Reader", func(r api.Reader) api.Reader { return fresh.Reader(r) })
+	check(t, "Reader", fresh.Reader)
+	check(t, "Wheel", fresh.Wheel)
 }
