@@ -21,3 +21,12 @@ func Wheel(w api.Wheel) api.Wheel {
 	}
 	return w
 }
+
+// Table of entries.
+func Table(t api.Table) api.Table {
+	t.Shards = slices.Clone(t.Shards)
+	for i, l := range t.Shards {
+		t.Shards[i] = slices.Clone(l)
+	}
+	return t
+}

@@ -85,4 +85,5 @@ func check[T any](t *testing.T, name string, f func(T) T) {
 func TestCopiesShareNothing(t *testing.T) {
 	check(t, "Reader", fresh.Reader)
 	check(t, "Wheel", fresh.Wheel)
+	check(t, "Table", fresh.Table)
 }
