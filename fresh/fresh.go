@@ -30,3 +30,18 @@ func Table(t api.Table) api.Table {
 	}
 	return t
 }
+
+// Lists of bytes, each of them.
+func Lists(l [][]byte) [][]byte {
+	l = slices.Clone(l)
+	for i, b := range l {
+		l[i] = slices.Clone(b)
+	}
+	return l
+}
+
+// Queue of things.
+func Queue(q api.Queue) api.Queue {
+	q.Items = Lists(q.Items)
+	return q
+}

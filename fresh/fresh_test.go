@@ -86,4 +86,6 @@ func TestCopiesShareNothing(t *testing.T) {
 	check(t, "Reader", fresh.Reader)
 	check(t, "Wheel", fresh.Wheel)
 	check(t, "Table", fresh.Table)
+	check(t, "Lists", fresh.Lists)
+	check(t, "Queue", fresh.Queue)
 }
