@@ -45,3 +45,9 @@ func Queue(q api.Queue) api.Queue {
 	q.Items = Lists(q.Items)
 	return q
 }
+
+// Ledger of an issuer.
+func Ledger(l api.Ledger) api.Ledger {
+	l.Holds = slices.Clone(l.Holds)
+	return l
+}

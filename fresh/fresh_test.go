@@ -88,4 +88,5 @@ func TestCopiesShareNothing(t *testing.T) {
 	check(t, "Table", fresh.Table)
 	check(t, "Lists", fresh.Lists)
 	check(t, "Queue", fresh.Queue)
+	check(t, "Ledger", fresh.Ledger)
 }
