@@ -51,3 +51,11 @@ func Ledger(l api.Ledger) api.Ledger {
 	l.Holds = slices.Clone(l.Holds)
 	return l
 }
+
+// Desk with its table, timers and records.
+func Desk(d api.Desk) api.Desk {
+	d.Table = Table(d.Table)
+	d.Wheel = Wheel(d.Wheel)
+	d.Records = slices.Clone(d.Records)
+	return d
+}

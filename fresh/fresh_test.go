@@ -89,4 +89,5 @@ func TestCopiesShareNothing(t *testing.T) {
 	check(t, "Lists", fresh.Lists)
 	check(t, "Queue", fresh.Queue)
 	check(t, "Ledger", fresh.Ledger)
+	check(t, "Desk", fresh.Desk)
 }
