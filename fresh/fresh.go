@@ -59,3 +59,17 @@ func Desk(d api.Desk) api.Desk {
 	d.Records = slices.Clone(d.Records)
 	return d
 }
+
+// Engine with its desk, lines and queues.
+func Engine(x api.Engine) api.Engine {
+	x.Desk = Desk(x.Desk)
+	x.FromA = Reader(x.FromA)
+	x.FromI = Reader(x.FromI)
+	x.LineA = slices.Clone(x.LineA)
+	x.LineI = slices.Clone(x.LineI)
+	x.Events = slices.Clone(x.Events)
+	x.Due = slices.Clone(x.Due)
+	x.OutA = Queue(x.OutA)
+	x.OutI = Queue(x.OutI)
+	return x
+}

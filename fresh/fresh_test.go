@@ -90,4 +90,5 @@ func TestCopiesShareNothing(t *testing.T) {
 	check(t, "Queue", fresh.Queue)
 	check(t, "Ledger", fresh.Ledger)
 	check(t, "Desk", fresh.Desk)
+	check(t, "Engine", fresh.Engine)
 }
