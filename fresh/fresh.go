@@ -73,3 +73,9 @@ func Engine(x api.Engine) api.Engine {
 	x.OutI = Queue(x.OutI)
 	return x
 }
+
+// Wire of frames.
+func Wire(w api.Wire) api.Wire {
+	w.Frames = Lists(w.Frames)
+	return w
+}

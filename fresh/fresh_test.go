@@ -91,4 +91,5 @@ func TestCopiesShareNothing(t *testing.T) {
 	check(t, "Ledger", fresh.Ledger)
 	check(t, "Desk", fresh.Desk)
 	check(t, "Engine", fresh.Engine)
+	check(t, "Wire", fresh.Wire)
 }
