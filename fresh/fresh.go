@@ -79,3 +79,14 @@ func Wire(w api.Wire) api.Wire {
 	w.Frames = Lists(w.Frames)
 	return w
 }
+
+// World with all that is in it.
+func World(w api.World) api.World {
+	w.Engine = Engine(w.Engine)
+	w.Ledger = Ledger(w.Ledger)
+	w.ToI = Wire(w.ToI)
+	w.Back = Wire(w.Back)
+	w.SentA = Lists(w.SentA)
+	w.SentI = Lists(w.SentI)
+	return w
+}

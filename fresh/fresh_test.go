@@ -92,4 +92,5 @@ func TestCopiesShareNothing(t *testing.T) {
 	check(t, "Desk", fresh.Desk)
 	check(t, "Engine", fresh.Engine)
 	check(t, "Wire", fresh.Wire)
+	check(t, "World", fresh.World)
 }
