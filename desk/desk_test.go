@@ -109,6 +109,18 @@ func wrong(t *testing.T) []api.Desk {
 	add(func(d *api.Desk) { d.Table.Shards = d.Table.Shards[:2] })
 	add(func(d *api.Desk) { d.Table.Shards[0], d.Table.Shards[1] = d.Table.Shards[1], d.Table.Shards[0] })
 	add(func(d *api.Desk) { d.Wheel.Now += 64 })
+	// a table that isn't right, without timers and records that would tell
+	for _, f := range []func([][]api.Entry){
+		func(l [][]api.Entry) { l[0], l[1] = l[1], l[0] },
+		func(l [][]api.Entry) { l[key.Shard(k(1), 3)][0].Amount = 1000000000000 },
+		func(l [][]api.Entry) { l[0] = append(l[0], l[0]...) },
+	} {
+		add(func(d *api.Desk) {
+			d.Wheel, _ = wheel.New(40, 8)
+			d.Records = nil
+			f(d.Table.Shards)
+		})
+	}
 	add(func(d *api.Desk) { d.Wheel, _ = wheel.New(api.MaxNow+1, 8) })
 	for n := 0; n <= 9; n++ {
 		if n != 1 && n != 4 {
@@ -304,6 +316,21 @@ func TestNoRoom(t *testing.T) {
 			t.Errorf("%+v", got)
 		}
 		check(t, last, evAsk(2), room, []api.Deal{told(api.Answer, 2, "00")}, nil)
+	}
+}
+
+func TestSpareRoomStays(t *testing.T) {
+	d := full(t)
+	room := append(slices.Clone(d.Records), k(100), k(101))
+	d.Records = room[:len(d.Records)]
+	i := key.Shard(k(8), 3)
+	entries := append(slices.Clone(d.Table.Shards[i]), api.Entry{Pan: "spare"}, api.Entry{Pan: "room"})
+	d.Table.Shards[i] = entries[:len(entries)-2]
+	keptRoom, keptEntries := show(room), show(entries)
+	do(t, d, evTime(4), evTime(4), evTime(4), evAsk(8), evUndo(8))
+	desk.Tick(d, 200)
+	if show(room) != keptRoom || show(entries) != keptEntries {
+		t.Errorf("%v and %v were altered to %v and %v", keptRoom, keptEntries, room, entries)
 	}
 }
 

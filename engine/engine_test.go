@@ -255,6 +255,32 @@ func TestGive(t *testing.T) {
 	}
 }
 
+func TestSpareRoomStays(t *testing.T) {
+	bytesA, bytesI := []byte("abcdefgh"), []byte("ijklmnop")
+	events := []api.Event{evAsk(1), evAsk(2), evAsk(3), evAsk(4)}
+	due := []api.Key{k(1), k(2), k(3), k(4)}
+	outA, outI := [][]byte{{1}, {2}, {3}, {4}}, [][]byte{{5}, {6}, {7}, {8}}
+	x := with(fresh(t, rules), func(x *api.Engine) {
+		x.Desk = at(t, evAsk(7))
+		x.LineA, x.LineI, x.Events, x.Due = bytesA[:2], bytesI[:2], events[:1], due[:1]
+		x.OutA.Items, x.OutI.Items = outA[:1], outI[:1]
+	})
+	tell := func() string { return show([]any{bytesA, bytesI, events, due, outA, outI}) }
+	kept := tell()
+	engine.Give(x, api.Acquirer, []byte("xyz"))
+	engine.Give(x, api.Issuer, []byte("xyz"))
+	engine.Tick(x, 100)
+	for _, task := range tasks {
+		engine.Do(x, task)
+	}
+	x.LineA, x.LineI = letter(ask(api.Ask, 9)), letter(told(api.Ack, 9, "00"))
+	engine.Do(x, api.ReadA)
+	engine.Do(x, api.ReadI)
+	if tell() != kept {
+		t.Errorf("%s was altered to %s", kept, tell())
+	}
+}
+
 // P18.3
 
 // sides: what a read task reads from.

@@ -94,8 +94,11 @@ func TestOrder(t *testing.T) {
 
 func TestShard(t *testing.T) {
 	r := rand.New(rand.NewSource(1))
-	for range 1000 {
+	for i := range 1200 {
 		k := some(r)
+		if i < 100 { // a Stan whose digits are at an edge
+			k.Stan = uint32([]int{0, 9, 10, 99, 100, 999, 1000, 9999, 10000, 99999, 100000, 100001, 200000, 500000, 900000, 999999}[i%16])
+		}
 		h := fnv.New32a()
 		fmt.Fprintf(h, "%06d%s", k.Stan, k.Rrn)
 		for many := 1; many <= 16; many++ {

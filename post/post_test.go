@@ -188,6 +188,15 @@ func TestPush(t *testing.T) {
 	}
 }
 
+func TestSpareRoomStays(t *testing.T) {
+	room := [][]byte{{1}, {2}, {3}, {4}}
+	kept := fmt.Sprint(room)
+	post.Push(api.Queue{Room: 9, Items: room[:1]}, []api.Deal{good(api.Ask), good(api.Ack)})
+	if fmt.Sprint(room) != kept {
+		t.Errorf("%s was altered to %v", kept, room)
+	}
+}
+
 // P17.3
 
 func TestALetterIsOpenedAsItWas(t *testing.T) {

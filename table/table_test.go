@@ -243,6 +243,21 @@ func TestRetire(t *testing.T) {
 	}
 }
 
+func TestSpareRoomStays(t *testing.T) {
+	room := append(many(6), entry(700, 1), entry(800, 1))
+	kept := fmt.Sprint(room)
+	x := api.Table{Room: 20, Shards: [][]api.Entry{room[:6]}}
+	for n := range 10 {
+		table.Insert(x, entry(n, 1))
+		table.Swap(x, 1+n%6, entry(n, 3))
+		table.Retire(x, k(n))
+	}
+	table.All(x)
+	if fmt.Sprint(room) != kept {
+		t.Errorf("%s was altered to %v", kept, room)
+	}
+}
+
 // P11.3
 
 func TestShardsPlayNoPart(t *testing.T) {

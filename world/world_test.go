@@ -249,6 +249,25 @@ func TestBack(t *testing.T) {
 	check(t, wrong, back, with(wrong, func(w *api.World) { w.Back.Frames = [][]byte{{2, 2}, {3}} }), api.Mark{Kind: api.DoBack, Err: api.ErrArg, Frame: []byte{1}})
 }
 
+func TestSpareRoomStays(t *testing.T) {
+	sentA, sentI, toI, backs := [][]byte{{1}, {2}, {3}}, [][]byte{{4}, {5}, {6}}, [][]byte{letter(ask(api.Ask, 1)), {8}, {9}}, [][]byte{{10}, {11}, {12}}
+	holds := []api.Hold{{Key: api.Key{Stan: 9, Rrn: rrn}, State: 1}, {Amount: 5}, {Amount: 6}}
+	w := with(fresh(t), func(w *api.World) {
+		w.SentA, w.SentI, w.ToI.Frames, w.Back.Frames, w.Ledger.Holds = sentA[:1], sentI[:1], toI[:1], backs[:1], holds[:1]
+		w.Engine.OutA.Items, w.Engine.OutI.Items = [][]byte{{20}}, [][]byte{{21}}
+	})
+	tell := func() string { return show([]any{sentA, sentI, toI, backs, holds}) }
+	kept := tell()
+	for kind := 1; kind <= 9; kind++ {
+		for n := 1; n <= 6; n++ {
+			world.Do(w, api.Act{Kind: kind, Bytes: []byte("x"), Task: n, Approve: true})
+		}
+	}
+	if tell() != kept {
+		t.Errorf("%s was altered to %s", kept, tell())
+	}
+}
+
 // P20.2
 
 func TestExample(t *testing.T) {
